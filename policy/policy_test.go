@@ -12,22 +12,13 @@ import (
 	"weighlock/policy"
 )
 
-// ordered is the lattice of n labels in which the pairs flow, and what follows from them.
-func ordered(t *testing.T, n int, pairs ...[2]int) *lattice.Lattice {
+// ordered is the lattice of labels that are told by sets, as bits: one flows to another, if its set lies within the other's.
+func ordered(t *testing.T, sets ...int) *lattice.Lattice {
 	t.Helper()
-	table := make([][]bool, n)
-	for a := range table {
-		table[a] = make([]bool, n)
-		table[a][a] = true
-	}
-	for _, p := range pairs {
-		table[p[0]][p[1]] = true
-	}
-	for b := range n {
-		for a := range n {
-			for c := range n {
-				table[a][c] = table[a][c] || table[a][b] && table[b][c]
-			}
+	table := make([][]bool, len(sets))
+	for a, set := range sets {
+		for _, other := range sets {
+			table[a] = append(table[a], set&^other == 0)
 		}
 	}
 	l, e := lattice.New(table)
@@ -41,26 +32,26 @@ func ordered(t *testing.T, n int, pairs ...[2]int) *lattice.Lattice {
 func lattices(t *testing.T) []*lattice.Lattice {
 	t.Helper()
 	return []*lattice.Lattice{
-		ordered(t, 1),
-		ordered(t, 2, [2]int{0, 1}),
-		ordered(t, 2, [2]int{1, 0}),
+		ordered(t, 0),
+		ordered(t, 0, 1),
+		ordered(t, 1, 0),
 		diamond(t),
-		ordered(t, 5, [2]int{4, 1}, [2]int{4, 2}, [2]int{2, 3}, [2]int{1, 0}, [2]int{3, 0}),
+		ordered(t, 0b111, 0b001, 0b010, 0b110, 0b000), // a pentagon
 		chain(t),
-		ordered(t, 6, [2]int{3, 0}, [2]int{0, 5}, [2]int{5, 2}, [2]int{2, 4}, [2]int{4, 1}),
+		ordered(t, 0b1, 0b11111, 0b111, 0b0, 0b1111, 0b11),
 	}
 }
 
 // diamond: 0 to all, 1 and 2 to 3.
 func diamond(t *testing.T) *lattice.Lattice {
 	t.Helper()
-	return ordered(t, 4, [2]int{0, 1}, [2]int{0, 2}, [2]int{1, 3}, [2]int{2, 3})
+	return ordered(t, 0b00, 0b01, 0b10, 0b11)
 }
 
 // chain: 0 to 1 to 2 .. to 5.
 func chain(t *testing.T) *lattice.Lattice {
 	t.Helper()
-	return ordered(t, 6, [2]int{0, 1}, [2]int{1, 2}, [2]int{2, 3}, [2]int{3, 4}, [2]int{4, 5})
+	return ordered(t, 0b0, 0b1, 0b11, 0b111, 0b1111, 0b11111)
 }
 
 // allRules are the rules between all two labels that may have one, with budgets of their own.
@@ -382,7 +373,7 @@ func TestNoSuchRule(t *testing.T) {
 
 // The example of the chapter.
 func TestExample(t *testing.T) {
-	g := opened(t, made(t, ordered(t, 2, [2]int{0, 1}), api.Rule{From: 1, To: 0, Budget: 2}), 10)
+	g := opened(t, made(t, ordered(t, 0, 1), api.Rule{From: 1, To: 0, Budget: 2}), 10)
 	for i, want := range []api.Errno{api.OK, api.OK, api.ErrBudget} {
 		if e := g.Spend(0); e != want {
 			t.Errorf("Spend %d: %v", i, e)
